@@ -3,6 +3,7 @@ package mirror
 
 import (
 	"mirror/api"
+	"mirror/delta"
 	"mirror/sums"
 )
 
@@ -19,10 +20,12 @@ func Roll(weak uint32, n int, out, in byte) uint32 { return sums.Roll(weak, n, o
 func Sign(data []byte, block int) ([]api.Sum, error) { return sums.Sign(data, block) }
 
 // Diff tells how a file is made of another (P5).
-func Diff(base, data []byte, block int) ([]api.Token, error) { return nil, nil }
+func Diff(base, data []byte, block int) ([]api.Token, error) { return delta.Diff(base, data, block) }
 
 // Apply makes a file of another (P6).
-func Apply(base []byte, tokens []api.Token, block int) ([]byte, error) { return nil, nil }
+func Apply(base []byte, tokens []api.Token, block int) ([]byte, error) {
+	return delta.Apply(base, tokens, block)
+}
 
 // Record writes a batch (P8).
 func Record(source, reference []api.File, block int) ([]byte, error) { return nil, nil }

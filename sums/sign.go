@@ -4,10 +4,10 @@ import "mirror/api"
 
 // Sign tells the sums of the blocks of data (P4).
 func Sign(data []byte, block int) ([]api.Sum, error) {
-	if err := check(data, block); err != nil {
+	if err := Check(data, block); err != nil {
 		return nil, err
 	}
-	list := make([]api.Sum, 0, count(len(data), block))
+	list := make([]api.Sum, 0, Count(len(data), block))
 	for from := 0; from < len(data); from += block {
 		to := min(from+block, len(data))
 		list = append(list, sumOf(data[from:to:to]))
@@ -15,8 +15,8 @@ func Sign(data []byte, block int) ([]api.Sum, error) {
 	return list, nil
 }
 
-// check tells P4's errors. The block's size comes first, as the promise names it first.
-func check(data []byte, block int) error {
+// Check tells P4's errors. The block's size comes first, as the promise names it first.
+func Check(data []byte, block int) error {
 	if block < 1 || block > api.MaxBlock {
 		return api.ErrBlock
 	}
@@ -26,8 +26,8 @@ func check(data []byte, block int) error {
 	return nil
 }
 
-// count is how many blocks a file of that size has, the shorter last one too.
-func count(size, block int) int { return (size + block - 1) / block }
+// Count is how many blocks a file of that size has, the shorter last one too.
+func Count(size, block int) int { return (size + block - 1) / block }
 
 // sumOf is what is told of one block.
 func sumOf(part []byte) api.Sum {
