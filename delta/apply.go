@@ -12,7 +12,7 @@ func Apply(base []byte, tokens []api.Token, block int) ([]byte, error) {
 	}
 	var made []byte
 	for _, token := range tokens {
-		if !fits(token, sums.Count(len(base), block)) {
+		if !Fits(token, len(base), block) {
 			return nil, api.ErrToken
 		}
 		part := partOf(base, token, block)
@@ -24,15 +24,24 @@ func Apply(base []byte, tokens []api.Token, block int) ([]byte, error) {
 	return made, nil
 }
 
-// fits is whether a token may speak of a file of so many blocks. Count is held against what is left behind Block, as a sum of both could go round.
-func fits(token api.Token, blocks int) bool {
+// Fits is whether a token may speak of a file of that size. Count is held against what is left behind Block, as a sum of both could go round.
+func Fits(token api.Token, size, block int) bool {
 	if token.Count < 0 || token.Block < 0 {
 		return false
 	}
 	if token.Count == 0 {
 		return token.Block == 0
 	}
-	return len(token.Data) == 0 && token.Count <= blocks-token.Block
+	return len(token.Data) == 0 && token.Count <= sums.Count(size, block)-token.Block
+}
+
+// Size is how many bytes a token that fits makes of a file of that size.
+func Size(token api.Token, size, block int) int {
+	if token.Count == 0 {
+		return len(token.Data)
+	}
+	from, to := span(token, size, block)
+	return to - from
 }
 
 // partOf is what a token that fits stands for.
@@ -40,6 +49,11 @@ func partOf(base []byte, token api.Token, block int) []byte {
 	if token.Count == 0 {
 		return token.Data
 	}
-	from, to := token.Block*block, min((token.Block+token.Count)*block, len(base))
+	from, to := span(token, len(base), block)
 	return base[from:to:to]
+}
+
+// span is where the blocks of a token that fits lie. The last block of a file may be shorter.
+func span(token api.Token, size, block int) (from, to int) {
+	return token.Block * block, min((token.Block+token.Count)*block, size)
 }

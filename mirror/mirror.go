@@ -3,6 +3,7 @@ package mirror
 
 import (
 	"mirror/api"
+	"mirror/batch"
 	"mirror/delta"
 	"mirror/sums"
 )
@@ -28,10 +29,12 @@ func Apply(base []byte, tokens []api.Token, block int) ([]byte, error) {
 }
 
 // Record writes a batch (P8).
-func Record(source, reference []api.File, block int) ([]byte, error) { return nil, nil }
+func Record(source, reference []api.File, block int) ([]byte, error) {
+	return batch.Record(source, reference, block)
+}
 
 // Read reads a batch (P9).
-func Read(b []byte) (api.Batch, error) { return api.Batch{}, nil }
+func Read(b []byte) (api.Batch, error) { return batch.Read(b) }
 
 // Mirror is a tree on a disk.
 type Mirror struct{}

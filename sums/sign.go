@@ -17,11 +17,19 @@ func Sign(data []byte, block int) ([]api.Sum, error) {
 
 // Check tells P4's errors. The block's size comes first, as the promise names it first.
 func Check(data []byte, block int) error {
-	if block < 1 || block > api.MaxBlock {
-		return api.ErrBlock
+	if err := CheckBlock(block); err != nil {
+		return err
 	}
 	if len(data) > api.MaxData {
 		return api.ErrData
+	}
+	return nil
+}
+
+// CheckBlock tells ErrBlock, if no block has that size.
+func CheckBlock(block int) error {
+	if block < 1 || block > api.MaxBlock {
+		return api.ErrBlock
 	}
 	return nil
 }
