@@ -2,10 +2,15 @@
 package mirror
 
 import (
+	"sync"
+
 	"mirror/api"
 	"mirror/batch"
 	"mirror/delta"
+	"mirror/disk"
+	"mirror/replay"
 	"mirror/sums"
+	"mirror/tree"
 )
 
 // Digest is a file's digest (P3).
@@ -37,19 +42,75 @@ func Record(source, reference []api.File, block int) ([]byte, error) {
 func Read(b []byte) (api.Batch, error) { return batch.Read(b) }
 
 // Mirror is a tree on a disk.
-type Mirror struct{}
+type Mirror struct {
+	guard sync.Mutex // held by each call from its first look to its end
+	room  int
+	disk  disk.Disk
+	down  bool
+}
 
 // New makes one (P10).
-func New(files []api.File, room int) (*Mirror, error) { return nil, nil }
+func New(files []api.File, room int) (*Mirror, error) {
+	if err := tree.Check(files); err != nil {
+		return nil, err
+	}
+	if room < 0 || room > api.MaxRoom {
+		return nil, api.ErrRoom
+	}
+	return &Mirror{room: room, disk: disk.New(tree.Clone(files))}, nil
+}
 
-// Files tells the tree (P10).
-func (m *Mirror) Files() ([]api.File, error) { return nil, nil }
+// Files tells the tree (P10). A nil mirror has none: as all calls of one, it tells the error that the promise names first.
+func (m *Mirror) Files() ([]api.File, error) {
+	if m == nil {
+		return nil, api.ErrDown
+	}
+	m.guard.Lock()
+	defer m.guard.Unlock()
+	if m.down {
+		return nil, api.ErrDown
+	}
+	return tree.Clone(m.disk.Tree()), nil
+}
 
-// Replay replays a batch (P11, P12).
-func (m *Mirror) Replay(b []byte, crash int) error { return nil }
+// Replay replays a batch (P11, P12). All files are made ahead of the disk's first step, so that what is wrong with a batch is told ahead of any failure.
+func (m *Mirror) Replay(b []byte, crash int) error {
+	if m == nil {
+		return api.ErrDown
+	}
+	m.guard.Lock()
+	defer m.guard.Unlock()
+	if m.down {
+		return api.ErrDown
+	}
+	files, err := replay.Make(m.disk.Tree(), b, m.room)
+	if err != nil {
+		return err
+	}
+	return m.run(func() { m.disk.Replace(files, crash) })
+}
 
 // Recover starts a mirror again (P12).
-func (m *Mirror) Recover(crash int) error { return nil }
+func (m *Mirror) Recover(crash int) error {
+	if m == nil {
+		return api.ErrUp
+	}
+	m.guard.Lock()
+	defer m.guard.Unlock()
+	if !m.down {
+		return api.ErrUp
+	}
+	return m.run(func() { m.disk.Clean(crash) })
+}
 
-// Spread replays a batch over several mirrors at once (P13).
-func Spread(b []byte, mirrors []*Mirror) ([]error, map[api.Kind]int, error) { return nil, nil, nil }
+// run lets the disk go through its steps: behind them the mirror is up, behind a failure, which ends here, it is down.
+func (m *Mirror) run(steps func()) (err error) {
+	defer func() {
+		if recover() != nil {
+			m.down, err = true, api.ErrCrash
+		}
+	}()
+	steps()
+	m.down = false
+	return nil
+}

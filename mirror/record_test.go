@@ -159,9 +159,10 @@ func TestP8ByRule(t *testing.T) {
 	}
 }
 
-// checkTree asks for a batch of a list as source and as reference: ErrTree of that name in both, or no error.
+// checkTree asks for a batch of a list as source and as reference, and for a mirror with it: ErrTree of that name in all of them, or no error.
 func checkTree(t *testing.T, about string, list []api.File, is bool, name string) {
 	t.Helper()
+	checkNew(t, about, list, is, name)
 	for _, pair := range [][2][]api.File{{list, nil}, {nil, list}, {list, list}, {list, files(2)}, {files(2), list}} {
 		b, err := mirror.Record(pair[0], pair[1], 4)
 		if is {

@@ -1,7 +1,11 @@
 // Package tree: what a tree of files is (DOC.md's section 'Words', P8).
 package tree
 
-import "mirror/api"
+import (
+	"bytes"
+
+	"mirror/api"
+)
 
 // Check tells ErrTree of the file at which a list is no tree any more.
 func Check(files []api.File) error {
@@ -46,4 +50,13 @@ func Data(files []api.File, name string) []byte {
 		}
 	}
 	return nil
+}
+
+// Clone is the same files in new memory.
+func Clone(files []api.File) []api.File {
+	var list []api.File
+	for _, file := range files {
+		list = append(list, api.File{Name: file.Name, Data: bytes.Clone(file.Data)})
+	}
+	return list
 }
